@@ -322,18 +322,29 @@ func TestJumps(t *testing.T) {
 	}
 }
 
-// P22.2: how Svc and Brk end; they change nothing.
+// P22.2: how Svc and Brk end, and where: Svc behind itself, Brk at itself. They change nothing else.
 func TestEnds(t *testing.T) {
 	for n := range uint64(65536) {
-		want := api.FaultUd
+		told := api.FaultUd
 		if n >= 1 && n <= 6 {
-			want = int(n)
+			told = int(n)
 		}
-		for op, want := range map[int]int{a64.Svc: api.Calls, a64.Brk: want} {
-			c := asem.Cpu{Pc: 100, X: [31]uint64{1, 2, 3}, Mark: asem.Access{Load: true, At: 3}}
-			before := c
-			if end := c.Done(a64.Inst{Op: op, W: 8, Imm: n}, 5, true); end != want || c != before {
-				t.Fatalf("operation %d of %d ends with %d: %+v", op, n, end, c)
+		for _, e := range []struct {
+			op, want int
+			at, pc   uint64
+		}{
+			{a64.Svc, api.Calls, 100, 104},
+			{a64.Svc, api.Calls, 0, 4},
+			{a64.Svc, api.Calls, all - 3, 0},
+			{a64.Brk, told, 100, 100},
+			{a64.Brk, told, 0, 0},
+			{a64.Brk, told, all - 3, all - 3},
+		} {
+			c := asem.Cpu{Pc: e.at, X: [31]uint64{1, 2, 3}, Mark: asem.Access{Load: true, At: 3}}
+			want := c
+			want.Pc = e.pc
+			if end := c.Done(a64.Inst{Op: e.op, W: 8, Imm: n}, 5, true); end != e.want || c != want {
+				t.Fatalf("operation %d of %d ends with %d: %+v, want %d: %+v", e.op, n, end, c, e.want, want)
 			}
 		}
 	}

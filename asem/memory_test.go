@@ -138,11 +138,12 @@ func TestStep(t *testing.T) {
 	if end := c.Step(1, a64.Inst{Op: a64.Dmb, W: 8, Imm: a64.Ish}, m, false); end != api.Runs || m.Pending(1) != 1 {
 		t.Errorf("dmb ends with %d", end)
 	}
-	if end := c.Step(1, a64.Inst{Op: a64.Brk, W: 8, Imm: 5}, m, false); end != api.Refuses {
-		t.Errorf("brk ends with %d", end)
+	pc := c.Pc
+	if end := c.Step(1, a64.Inst{Op: a64.Brk, W: 8, Imm: 5}, m, false); end != api.Refuses || c.Pc != pc {
+		t.Errorf("brk at %d ends with %d at %d", pc, end, c.Pc)
 	}
-	if end := c.Step(1, a64.Inst{Op: a64.Svc, W: 8, Imm: 5}, m, false); end != api.Calls {
-		t.Errorf("svc ends with %d", end)
+	if end := c.Step(1, a64.Inst{Op: a64.Svc, W: 8, Imm: 5}, m, false); end != api.Calls || c.Pc != pc+4 {
+		t.Errorf("svc at %d ends with %d at %d", pc, end, c.Pc)
 	}
 }
 

@@ -111,7 +111,7 @@ func reading(c asem.Cpu, i a64.Inst, v uint64, ok bool) (asem.Cpu, int) {
 	case "br":
 		next = x.reg(i.N)
 	case "svc":
-		next, x.end = c.Pc, api.Calls
+		x.end = api.Calls
 	case "brk":
 		next, x.end = c.Pc, api.FaultUd
 		if strings.Contains(" 1 2 3 4 5 6 ", " "+strconv.FormatUint(i.Imm, 10)+" ") {
