@@ -92,18 +92,21 @@ func TestLifted(t *testing.T) {
 	}{
 		// Example 1.
 		{xinst.Inst{Op: xinst.Dec, W: 8, A: xinst.R(0), Len: 3}, join("bound 100.0",
-			"movz x19 32768 3", "movz x20 1 0", "sub x18 x0 x20 0", "subs x31 x0 x19 0", "csinc x17 x31 x31 1", "orr x0 x31 x18 0", "b 0 -> 103.0")},
+			"orr x19 x31 x0 0", "movz x20 32768 3", "movz x21 1 0", "sub x21 x19 x21 0", "subs x31 x19 x20 0", "csinc x19 x31 x31 1",
+			"orr x17 x31 x19 0", "orr x18 x31 x21 0", "orr x0 x31 x21 0", "b 0 -> 103.0")},
 		{xinst.Inst{Op: xinst.Push, W: 8, A: xinst.R(0), Len: 1}, join("bound 100.0",
-			"movz x19 8 0", "sub x19 x4 x19 0", "movz x20 47 0", "lsrv x20 x19 x20", "cbz x20 8", "brk 2", "str.8 x0 x19 0", "orr x4 x31 x19 0", "b 0 -> 101.0")},
+			"orr x19 x31 x0 0", "orr x20 x31 x4 0", "movz x21 8 0", "sub x20 x20 x21 0", "movz x21 47 0", "lsrv x21 x20 x21", "cbz x21 8", "brk 2",
+			"str.8 x19 x20 0", "orr x4 x31 x20 0", "b 0 -> 101.0")},
 		{xinst.Inst{Op: xinst.Xchg, W: 8, A: xinst.R(0), B: xinst.R(1), Len: 3}, join("bound 100.0",
-			"orr x19 x31 x1 0", "orr x1 x31 x0 0", "orr x0 x31 x19 0", "b 0 -> 103.0")},
+			"orr x19 x31 x0 0", "orr x20 x31 x1 0", "orr x1 x31 x19 0", "orr x0 x31 x20 0", "b 0 -> 103.0")},
 		{xinst.Inst{Op: xinst.Ret, W: 8, Len: 1}, join("bound 100.0",
-			"movz x19 8 0", "add x19 x4 x19 0", "movz x20 47 0", "lsrv x20 x4 x20", "cbz x20 8", "brk 2", "ldr.8 x20 x4 0", "orr x4 x31 x19 0", "orr x30 x31 x20 0", "b 0 -> find")},
-		{xinst.Inst{Op: xinst.Xadd, W: 4, A: own, B: xinst.R(1), Lock: true, Len: 4}, join("ldaxr.4 x19 x3", "add x20 x19 x1 0")},
+			"orr x19 x31 x4 0", "movz x20 8 0", "add x20 x19 x20 0", "movz x21 47 0", "lsrv x21 x19 x21", "cbz x21 8", "brk 2",
+			"ldr.8 x19 x19 0", "orr x4 x31 x20 0", "orr x30 x31 x19 0", "b 0 -> find")},
+		{xinst.Inst{Op: xinst.Xadd, W: 4, A: own, B: xinst.R(1), Lock: true, Len: 4}, join("ldaxr.4 x20 x19", "orr x21 x31 x1 0", "add x22 x20 x21 0")},
 		{xinst.Inst{Op: xinst.Sys, W: 8, Len: 2}, join("svc 0", "b 0 -> 102.0")},
 		{xinst.Inst{Op: xinst.Ud, W: 8, Len: 2}, join("bound 100.0", "brk 4")},
 		{xinst.Inst{Op: xinst.Jmp, W: 8, Imm: 20, Len: 2}, join("bound 100.0", "b 0 -> 122.0")},
-		{xinst.Inst{Op: xinst.Jmp, W: 8, A: xinst.R(9), Len: 2}, join("bound 100.0", "orr x30 x31 x9 0", "b 0 -> find")},
+		{xinst.Inst{Op: xinst.Jmp, W: 8, A: xinst.R(9), Len: 2}, join("bound 100.0", "orr x19 x31 x9 0", "orr x30 x31 x19 0", "b 0 -> find")},
 		{xinst.Inst{Op: xinst.Nop, W: 8, Len: 1}, join("bound 100.0", "b 0 -> 101.0")},
 	} {
 		if got := must(t, lifted(t, x.i)...); !strings.Contains(got+"\n", x.want+"\n") {
@@ -118,38 +121,42 @@ func TestEnds(t *testing.T) {
 	for _, x := range []struct {
 		what string
 		c    ir.Code
-		want string // ahead of the bound of the next code
+		want string // behind the Get, if there is one, ahead of the bound of the next code
 	}{
 		{"Goto the next code", steps(on), ""},
 		{"Goto elsewhere", steps(ir.End{Kind: ir.Goto, To: 104}), "b 0 -> 104.0"},
 		{"Goto itself", steps(ir.End{Kind: ir.Goto, To: 100}), "b 0 -> 100.0"},
-		{"If, else the next code", steps(ir.End{Kind: ir.If, To: 7, Else: 103}, get), "cbnz x9 0 -> 7.0"},
-		{"If, else elsewhere", steps(ir.End{Kind: ir.If, To: 7, Else: 8}, get), join("cbnz x9 0 -> 7.0", "b 0 -> 8.0")},
-		{"If to the next code", steps(ir.End{Kind: ir.If, To: 103, Else: 8}, get), join("cbnz x9 0 -> 103.0", "b 0 -> 8.0")},
+		{"If, else the next code", steps(ir.End{Kind: ir.If, To: 7, Else: 103}, get), "cbnz x19 0 -> 7.0"},
+		{"If, else elsewhere", steps(ir.End{Kind: ir.If, To: 7, Else: 8}, get), join("cbnz x19 0 -> 7.0", "b 0 -> 8.0")},
+		{"If to the next code", steps(ir.End{Kind: ir.If, To: 103, Else: 8}, get), join("cbnz x19 0 -> 103.0", "b 0 -> 8.0")},
 		{"If to the next code in any case", steps(ir.End{Kind: ir.If, To: 103, Else: 103}, get), ""},
 		{"If elsewhere in any case", steps(ir.End{Kind: ir.If, To: 8, Else: 8}, get), "b 0 -> 8.0"},
-		{"Jump", steps(ir.End{Kind: ir.Jump}, get), join("orr x30 x31 x9 0", "b 0 -> find")},
+		{"Jump", steps(ir.End{Kind: ir.Jump}, get), join("orr x30 x31 x19 0", "b 0 -> find")},
 		{"Sys", steps(ir.End{Kind: ir.Sys, To: 105}), join("svc 0", "b 0 -> 105.0")},
 		{"Sys ahead of the next code", steps(ir.End{Kind: ir.Sys, To: 103}), join("svc 0", "b 0 -> 103.0")},
 		{"Stop", steps(ir.End{Kind: ir.Stop, A: 6}), "brk 6"},
-		{"Trap", steps(on, get, ir.Op{Kind: ir.Trap, N: 3}), join("cbz x9 8", "brk 3")},
-		{"Skip elsewhere", steps(on, get, skip(7)), "cbnz x9 0 -> 7.0"},
-		{"Skip to the next code", steps(on, get, skip(103), ir.Op{Kind: ir.Fence, F: 1}), join("cbnz x9 8", "dmb 11")},
-		{"Skip to the next code, Goto elsewhere", steps(ir.End{Kind: ir.Goto, To: 8}, get, skip(103)), join("cbnz x9 8", "b 0 -> 8.0")},
-		{"Skip to Else", steps(ir.End{Kind: ir.If, To: 7, Else: 103}, get, skip(103)), join("cbnz x9 12", "cbz x9 8", "b 0 -> 7.0")},
-		{"Skip to the next code, which is not Else", steps(ir.End{Kind: ir.If, To: 103, Else: 8}, get, skip(103)), join("cbnz x9 0 -> 103.0", "cbnz x9 0 -> 103.0", "b 0 -> 8.0")},
-		{"Skip to the next code, Jump", steps(ir.End{Kind: ir.Jump}, get, skip(103)), join("cbnz x9 0 -> 103.0", "orr x30 x31 x9 0", "b 0 -> find")},
-		{"Skip to the next code, Sys", steps(ir.End{Kind: ir.Sys, To: 103}, get, skip(103)), join("cbnz x9 0 -> 103.0", "svc 0", "b 0 -> 103.0")},
-		{"Skip to the next code, Stop", steps(ir.End{Kind: ir.Stop, A: 2}, get, skip(103)), join("cbnz x9 0 -> 103.0", "brk 2")},
-		{"three Skips", steps(on, get, skip(7), skip(103), skip(8)), join("cbnz x9 0 -> 7.0", "cbnz x9 12", "cbz x9 8", "b 0 -> 8.0")},
+		{"Trap", steps(on, get, ir.Op{Kind: ir.Trap, N: 3}), join("cbz x19 8", "brk 3")},
+		{"Skip elsewhere", steps(on, get, skip(7)), "cbnz x19 0 -> 7.0"},
+		{"Skip to the next code", steps(on, get, skip(103), ir.Op{Kind: ir.Fence, F: 1}), join("cbnz x19 8", "dmb 11")},
+		{"Skip to the next code, Goto elsewhere", steps(ir.End{Kind: ir.Goto, To: 8}, get, skip(103)), join("cbnz x19 8", "b 0 -> 8.0")},
+		{"Skip to Else", steps(ir.End{Kind: ir.If, To: 7, Else: 103}, get, skip(103)), join("cbnz x19 12", "cbz x19 8", "b 0 -> 7.0")},
+		{"Skip to the next code, which is not Else", steps(ir.End{Kind: ir.If, To: 103, Else: 8}, get, skip(103)), join("cbnz x19 0 -> 103.0", "cbnz x19 0 -> 103.0", "b 0 -> 8.0")},
+		{"Skip to the next code, Jump", steps(ir.End{Kind: ir.Jump}, get, skip(103)), join("cbnz x19 0 -> 103.0", "orr x30 x31 x19 0", "b 0 -> find")},
+		{"Skip to the next code, Sys", steps(ir.End{Kind: ir.Sys, To: 103}, get, skip(103)), join("cbnz x19 0 -> 103.0", "svc 0", "b 0 -> 103.0")},
+		{"Skip to the next code, Stop", steps(ir.End{Kind: ir.Stop, A: 2}, get, skip(103)), join("cbnz x19 0 -> 103.0", "brk 2")},
+		{"three Skips", steps(on, get, skip(7), skip(103), skip(8)), join("cbnz x19 0 -> 7.0", "cbnz x19 12", "cbz x19 8", "b 0 -> 8.0")},
 	} {
-		want := strings.ReplaceAll(join("bound 100.0", x.want, "bound 103.0", "brk 1"), "\n\n", "\n")
+		first := "bound 100.0"
+		if len(x.c.Ops) > 0 {
+			first = join(first, "orr x19 x31 x9 0")
+		}
+		want := strings.ReplaceAll(join(first, x.want, "bound 103.0", "brk 1"), "\n\n", "\n")
 		if got := must(t, x.c, last()); got != want {
 			t.Errorf("%s:\n%s\nnot\n%s", x.what, got, want)
 		}
 	}
 	// Without a next code, each one ends with a jump.
-	if got := must(t, steps(ir.End{Kind: ir.If, To: 7, Else: 103}, get, skip(103))); got != join("bound 100.0", "cbnz x9 0 -> 103.0", "cbnz x9 0 -> 7.0", "b 0 -> 103.0") {
+	if got := must(t, steps(ir.End{Kind: ir.If, To: 7, Else: 103}, get, skip(103))); got != join("bound 100.0", "orr x19 x31 x9 0", "cbnz x19 0 -> 103.0", "cbnz x19 0 -> 7.0", "b 0 -> 103.0") {
 		t.Error(got)
 	}
 	if got := must(t, last(), steps(on)); got != join("bound 103.0", "brk 1", "bound 100.0", "b 0 -> 103.0") {
@@ -160,12 +167,12 @@ func TestEnds(t *testing.T) {
 // P24.1: an exclusive store that fails goes back to its load.
 func TestExclusive(t *testing.T) {
 	l := []ir.Op{{Kind: ir.Get, N: 2}, {Kind: ir.Lx, W: 2}, {Kind: ir.Sx, W: 2, B: 1}}
-	if got := must(t, steps(on, l...), last()); got != join("bound 100.0", "ldaxr.2 x19 x2", "stlxr.2 x19 x2 x30", "cbnz x30 -8", "bound 103.0", "brk 1") {
+	if got := must(t, steps(on, l...), last()); got != join("bound 100.0", "orr x19 x31 x2 0", "ldaxr.2 x20 x19", "stlxr.2 x20 x19 x30", "cbnz x30 -8", "bound 103.0", "brk 1") {
 		t.Error(got)
 	}
 	// Nothing needs the number that is read.
 	l[2].B = 0
-	if got := must(t, steps(on, l...), last()); got != join("bound 100.0", "ldaxr.2 x25 x2", "stlxr.2 x2 x2 x30", "cbnz x30 -8", "bound 103.0", "brk 1") {
+	if got := must(t, steps(on, l...), last()); got != join("bound 100.0", "orr x19 x31 x2 0", "ldaxr.2 x25 x19", "stlxr.2 x19 x19 x30", "cbnz x30 -8", "bound 103.0", "brk 1") {
 		t.Error(got)
 	}
 }
@@ -228,8 +235,8 @@ func TestExclusiveAgain(t *testing.T) {
 	}
 }
 
-// P24.1: values that nothing needs take nothing, values that registers are left for take no memory.
-func TestNeeded(t *testing.T) {
+// P24.1, chapter 23, Registers: each value is in a register of its own from where it is made to where it is needed last, also that of a Get; one that nothing needs takes nothing.
+func TestHomes(t *testing.T) {
 	get := func(n uint64) ir.Op { return ir.Op{Kind: ir.Get, N: n} }
 	add := func(a, b int) ir.Op { return ir.Op{Kind: ir.Alu, F: ir.Add, A: a, B: b} }
 	put := func(n uint64, a int) ir.Op { return ir.Op{Kind: ir.Put, N: n, A: a} }
@@ -239,16 +246,13 @@ func TestNeeded(t *testing.T) {
 		want string
 	}{
 		{"nothing needs the first one", []ir.Op{{Kind: ir.Const, N: 5}}, ""},
-		{"nothing needs it", []ir.Op{{Kind: ir.Const, N: 5}, get(3), add(0, 1)}, join("movz x19 5 0")},
-		{"a load that nothing needs", []ir.Op{get(3), {Kind: ir.Load, W: 4}}, "ldr.4 x25 x3 0"},
-		{"where it is", []ir.Op{get(3), put(3, 0)}, ""},
-		{"a cell that is set before it is needed", []ir.Op{get(3), {Kind: ir.Const}, put(3, 1), put(4, 0)}, join("orr x4 x31 x3 0", "movz x3 0 0")},
-		{"a cell that is set, but read in between", []ir.Op{get(3), get(4), add(0, 1), get(5), put(5, 2), put(6, 3)}, join("add x19 x3 x4 0", "orr x6 x31 x5 0", "orr x5 x31 x19 0")},
-		{"a cell that is set as early as may be", []ir.Op{get(3), get(4), add(0, 1), get(6), put(5, 2), put(7, 3)}, join("add x5 x3 x4 0", "orr x7 x31 x6 0")},
-		{"a cell that is set twice", []ir.Op{get(3), add(0, 0), put(5, 0), put(5, 1), put(6, 1)}, join("add x19 x3 x3 0", "orr x5 x31 x3 0", "orr x5 x31 x19 0", "orr x6 x31 x19 0")},
-		{"a cell that is set to what is needed then", []ir.Op{get(3), add(0, 0), put(5, 1), put(5, 0), put(6, 1)}, join("add x19 x3 x3 0", "orr x5 x31 x19 0", "orr x5 x31 x3 0", "orr x6 x31 x19 0")},
-		{"a cell that is needed in between", []ir.Op{get(5), add(0, 0), add(0, 1), put(5, 1), put(6, 2)}, join("add x19 x5 x5 0", "add x6 x5 x19 0", "orr x5 x31 x19 0")},
-		{"a cell when code ends in between", []ir.Op{get(5), add(0, 0), {Kind: ir.Trap, N: 1, A: 0}, put(5, 1)}, join("add x19 x5 x5 0", "cbz x5 8", "brk 1", "orr x5 x31 x19 0")},
+		{"nothing needs the last one", []ir.Op{{Kind: ir.Const, N: 5}, get(3), add(0, 1)}, join("movz x19 5 0", "orr x20 x31 x3 0")},
+		{"a load that nothing needs", []ir.Op{get(3), {Kind: ir.Load, W: 4}}, join("orr x19 x31 x3 0", "ldr.4 x25 x19 0")},
+		{"a cell that is set to what it is", []ir.Op{get(3), put(3, 0)}, join("orr x19 x31 x3 0", "orr x3 x31 x19 0")},
+		{"a cell that is set before its value is needed", []ir.Op{get(3), {Kind: ir.Const}, put(3, 1), put(4, 0)}, join("orr x19 x31 x3 0", "movz x20 0 0", "orr x3 x31 x20 0", "orr x4 x31 x19 0")},
+		{"a cell that is not set", []ir.Op{get(3), get(3), add(0, 1), add(2, 0), put(4, 3)}, join("orr x19 x31 x3 0", "orr x20 x31 x3 0", "add x20 x19 x20 0", "add x19 x20 x19 0", "orr x4 x31 x19 0")},
+		{"what a cell is set to later", []ir.Op{get(3), add(0, 0), get(4), put(5, 1), put(6, 2)}, join("orr x19 x31 x3 0", "add x19 x19 x19 0", "orr x20 x31 x4 0", "orr x5 x31 x19 0", "orr x6 x31 x20 0")},
+		{"what two cells are set to", []ir.Op{get(3), put(4, 0), put(5, 0)}, join("orr x19 x31 x3 0", "orr x4 x31 x19 0", "orr x5 x31 x19 0")},
 	} {
 		want := strings.ReplaceAll(join("bound 100.0", x.want, "bound 103.0", "brk 1"), "\n\n", "\n")
 		got := must(t, steps(on, x.l...), last())
@@ -258,21 +262,33 @@ func TestNeeded(t *testing.T) {
 	}
 }
 
-// P24.1: six values live in registers, and the seventh one in Room.
+// many is code with as many values, made by one step each, of which every one is needed behind the last.
+func many(most int, made func(n int) ir.Op) ir.Code {
+	m := &ir.Maker{}
+	m.At, m.Next, m.End = 100, 103, on
+	var l []int
+	for n := range most {
+		l = append(l, m.Add(made(n)))
+	}
+	for k, v := range l {
+		m.Add(ir.Op{Kind: ir.Store, W: 1, A: v, B: l[len(l)-1-k]})
+	}
+	return m.Code
+}
+
+// P24.1, chapter 23, Registers: six values live in registers, and each further one in Room, whatever makes them.
 func TestRegisters(t *testing.T) {
-	for most := range 12 {
-		m := &ir.Maker{}
-		m.At, m.Next, m.End = 100, 103, on
-		var l []int
-		for n := range most {
-			l = append(l, m.Const(uint64(n)+2))
-		}
-		for k, v := range l {
-			m.Add(ir.Op{Kind: ir.Store, W: 1, A: v, B: l[len(l)-1-k]})
-		}
-		want := max(0, most-6)
-		if got := strings.Count(must(t, m.Code), "str.8 x25 x29 "); got != want {
-			t.Errorf("%d values: %d in Room, not %d", most, got, want)
+	for what, made := range map[string]func(n int) ir.Op{
+		"numbers":        func(n int) ir.Op { return ir.Op{Kind: ir.Const, N: uint64(n) + 2} },
+		"cells":          func(n int) ir.Op { return ir.Op{Kind: ir.Get, N: uint64(n)} },
+		"one cell":       func(int) ir.Op { return ir.Op{Kind: ir.Get, N: 7} },
+		"cells, numbers": func(n int) ir.Op { return ir.Op{Kind: ir.Const + n%2*(ir.Get-ir.Const), N: uint64(n)} },
+	} {
+		for most := range 12 {
+			want := max(0, most-6)
+			if got := strings.Count(must(t, many(most, made)), "str.8 x25 x29 "); got != want {
+				t.Errorf("%s, %d values: %d in Room, not %d", what, most, got, want)
+			}
 		}
 	}
 }
@@ -375,7 +391,7 @@ func TestSplit(t *testing.T) {
 	if e != api.OK || text(lines) != want {
 		t.Errorf("%d\n%s\nnot\n%s", e, text(lines), want)
 	}
-	if !strings.Contains(text(quick), "\nstr.8 x0 x19 0\n") || !strings.Contains(text(careful), "\nstlr.8 x0 x19\n") {
+	if !strings.Contains(text(quick), "\nstr.8 x19 x20 0\n") || !strings.Contains(text(careful), "\nstlr.8 x19 x20\n") {
 		t.Error("the fast version is plain, and the slow one is not")
 	}
 	// The labels, and what jumps to them, are those of the block, and the bound is that of the first code.

@@ -10,7 +10,7 @@ import (
 // nowhere is the home of a value that no register is left for, or that nothing needs.
 const nowhere = -1
 
-// homes says where the values of code live: each in one register as long as it is needed, or in its place in Room.
+// homes says where the values of code live: each in one of the registers for values as long as it is needed, or in its place in Room. None lives in a register of a cell, not even that of a Get.
 type homes struct {
 	ir.Code
 	last     []int // by step, the last one that needs its value, or 0; the end counts as a step behind all others
@@ -58,15 +58,8 @@ func (h *homes) repeat() {
 
 // choose returns the register in which the value of a step is to live. All earlier ones have been chosen.
 func (h *homes) choose(k int) int {
-	o := h.Ops[k]
 	if !h.needed(k) {
 		return nowhere
-	}
-	if o.Kind == ir.Get && !h.any(ir.Put, o.N, k+1, h.last[k]) {
-		return int(o.N)
-	}
-	if r, ok := h.early(k); ok {
-		return r
 	}
 	for r := sel.First; r <= sel.Last; r++ {
 		if !h.taken(r, k) {
@@ -84,34 +77,4 @@ func (h *homes) taken(r, k int) bool {
 		}
 	}
 	return false
-}
-
-// any reports whether a cell has to do with a step of a kind, from one number on up to before another.
-func (h *homes) any(kind int, cell uint64, from, to int) bool {
-	for k := from; k < to; k++ {
-		if o := h.Ops[k]; o.Kind == kind && o.N == cell {
-			return true
-		}
-	}
-	return false
-}
-
-// early returns the register of a cell that is set to the value of a step later, if the value may be there from the beginning: as long as it is not set, nothing needs what was there, and the code does not end.
-func (h *homes) early(k int) (int, bool) {
-	for n, o := range h.Ops[k+1:] {
-		put := k + 1 + n
-		switch {
-		case o.Kind == ir.Put && o.A == k:
-			return int(o.N), h.vacant(o.N, k, put)
-		case !o.Pure() && o.Kind != ir.Put:
-			return 0, false
-		}
-	}
-	return 0, false
-}
-
-// vacant reports whether a cell may be set as early as at a step, instead of later, and hold its value.
-func (h *homes) vacant(cell uint64, k, put int) bool {
-	touched := h.any(ir.Get, cell, k+1, put) || h.any(ir.Put, cell, k+1, put)
-	return !touched && !h.taken(int(cell), k) && !h.any(ir.Put, cell, put+1, h.last[k])
 }

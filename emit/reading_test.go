@@ -210,9 +210,38 @@ func shape(t *testing.T, codes []ir.Code, lines []emit.Line) {
 	}
 }
 
+// apart reports whether an instruction has to do with no cell's register, but for a move from one, or to one.
+func apart(i a64.Inst) bool {
+	if i.Op == a64.Orr && i.N == a64.Zr {
+		return i.D >= sel.First || i.M >= sel.First
+	}
+	for _, r := range registers(i) {
+		if r < sel.First {
+			return false
+		}
+	}
+	return true
+}
+
+// registers are the registers of an instruction that lines of codes may have.
+func registers(i a64.Inst) []int {
+	switch i.Op {
+	case a64.B, a64.Brk, a64.Svc, a64.Dmb:
+		return nil
+	case a64.Movz, a64.Movn, a64.Movk, a64.Cbz, a64.Cbnz:
+		return []int{i.D}
+	case a64.OrrI, a64.SubsI, a64.Ubfm, a64.Sbfm, a64.Ldr, a64.Ldapr, a64.Str, a64.Stlr, a64.Ldaxr:
+		return []int{i.D, i.N}
+	}
+	return []int{i.D, i.N, i.M}
+}
+
 // one checks one of the instructions.
 func one(t *testing.T, l []emit.Line, k int, x emit.Line) {
 	t.Helper()
+	if !apart(x.Inst) {
+		t.Fatal("a value in a cell's register, or more than one move:", show(x))
+	}
 	refers := func(x emit.Line) bool { return x.Ref != emit.None && x.Op != a64.B }
 	switch {
 	case !a64.May(x.Inst), x.Ver != 0:

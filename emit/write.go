@@ -35,13 +35,9 @@ func (w *writer) distance(from, to int) int64 {
 	return int64(instBytes * (to - from))
 }
 
-// add adds instructions, but for moves of a register to itself.
+// add adds instructions that refer to nothing.
 func (w *writer) add(l ...a64.Inst) {
-	for _, i := range l {
-		if i != sel.Move(i.D, i.D) {
-			w.lines = append(w.lines, Line{Inst: i})
-		}
-	}
+	w.lines = append(w.lines, plain(l...)...)
 }
 
 // refer adds an instruction that jumps to the block at an address.
